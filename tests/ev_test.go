@@ -349,24 +349,12 @@ func TestEvsReadShortTexts(t *testing.T) {
 	}
 }
 
-// All texts that are one byte off: one changed, one put in, one left out, two next to each other swapped.
 func TestEvsReadNearTexts(t *testing.T) {
 	for _, text := range []string{"a1 b3=5 e1000", "c999=100 d1000=99", "a1 b2 c3", "e10=10 a11", impl.EvsText(row(24)), impl.EvsText(full())} {
-		for i := 0; i <= len(text); i++ {
-			for b := 0; b < 256; b++ {
-				put := string([]byte{byte(b)})
-				holdRead(t, text[:i]+put+text[i:])
-				if i < len(text) {
-					holdRead(t, text[:i]+put+text[i+1:])
-				}
-			}
-			if i < len(text) {
-				holdRead(t, text[:i]+text[i+1:])
-			}
-			if i+1 < len(text) {
-				holdRead(t, text[:i]+text[i+1:i+2]+text[i:i+1]+text[i+2:])
-			}
-		}
+		nearTexts(text, func(near string) {
+			t.Helper()
+			holdRead(t, near)
+		})
 	}
 }
 
