@@ -105,6 +105,14 @@ func EvsTill(list []Ev, at int) []Ev {
 	return till
 }
 
+// lastAt is when the last of a list that is in order happened, or 0.
+func lastAt(list []Ev) int {
+	if len(list) == 0 {
+		return 0
+	}
+	return list[len(list)-1].At
+}
+
 // evsScan takes the events that a text seems to hold, up to the first byte that can't stand where it does. EvsRead holds them against the text, so this need only be right about texts that are right.
 func evsScan(text string) []Ev {
 	var list []Ev

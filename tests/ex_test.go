@@ -100,10 +100,18 @@ func partsRight(x impl.Ex) bool {
 	return true
 }
 
+// deeper says whether more than so many are around one another. It ends even where a list of kids holds itself.
+func deeper(x impl.Ex, deep int) bool {
+	return deep == 0 || slices.ContainsFunc(x.Kids, func(kid impl.Ex) bool { return deeper(kid, deep-1) })
+}
+
 // okEx is ExOk, told otherwise.
 func okEx(x impl.Ex) bool {
-	many, deep := sizeEx(x)
-	return many <= 12 && deep <= 5 && partsRight(x)
+	if deeper(x, 5) {
+		return false
+	}
+	many, _ := sizeEx(x)
+	return many <= 12 && partsRight(x)
 }
 
 // textEx is the text of what has a text, told otherwise: from the kids on.
